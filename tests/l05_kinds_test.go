@@ -43,17 +43,22 @@ func wantTagged(key string, kind int) int {
 	return n<<2 | kind
 }
 
-// checkUntag compares Untag with the bytes of the number, whose last two bits are the kind.
+// wantUntagged takes the key from the bytes of the number and the kind from its last two bits.
+func wantUntagged(n int) (string, int) {
+	if n <= 0 {
+		return "", 0
+	}
+	high, low := new(big.Int).DivMod(big.NewInt(int64(n)), big.NewInt(4), new(big.Int))
+	key, kind := string(high.Bytes()), int(low.Int64())
+	if !keyPattern.MatchString(key) || kind == 0 {
+		return "", 0
+	}
+	return key, kind
+}
+
 func checkUntag(t *testing.T, n int) {
 	t.Helper()
-	want, wantKind := "", 0
-	if n > 0 {
-		high, low := new(big.Int).DivMod(big.NewInt(int64(n)), big.NewInt(4), new(big.Int))
-		want, wantKind = string(high.Bytes()), int(low.Int64())
-	}
-	if !keyPattern.MatchString(want) || wantKind == 0 {
-		want, wantKind = "", 0
-	}
+	want, wantKind := wantUntagged(n)
 	if got, kind := impl.Untag(n); got != want || kind != wantKind {
 		t.Errorf("Untag(%d) = %q, %d, want %q, %d", n, got, kind, want, wantKind)
 	}
