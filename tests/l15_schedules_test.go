@@ -105,18 +105,24 @@ func TestSerialOkInEveryHistory(t *testing.T) {
 	}
 }
 
+// anyStart returns a world at the beginning of a schedule, for some i one that begins shortly before the epoch wraps around.
+func anyStart(r *rand.Rand, i int) impl.World {
+	l := busyTodo(r)
+	if i%3 == 0 {
+		l = anyTodo(r)
+	}
+	w := impl.WorldNew(l)
+	if i%4 == 0 {
+		w.Cells[0] = 1<<48 - 1 - r.IntN(4)
+	}
+	return w
+}
+
 // Every state of many schedules, also of ones that begin shortly before the epoch wraps around.
 func TestSerialOkInEveryState(t *testing.T) {
 	r := rand.New(rand.NewPCG(15, 5))
 	for i := range 120 {
-		l := busyTodo(r)
-		if i%3 == 0 {
-			l = anyTodo(r)
-		}
-		w := impl.WorldNew(l)
-		if i%4 == 0 {
-			w.Cells[0] = 1<<48 - 1 - r.IntN(4)
-		}
+		w := anyStart(r, i)
 		requireSerialAt(t, w)
 		for _, thread := range anyPicks(r, oneOf(r, 60, 300, 500)) {
 			w = impl.Step(w, thread)
